@@ -88,10 +88,6 @@ func hasNumber(list []impl.Context, id int) bool {
 	return slices.ContainsFunc(list, func(c impl.Context) bool { return c.Id == id })
 }
 
-func without(list []impl.Context, i int) []impl.Context {
-	return slices.Concat(list[:i], list[i+1:])
-}
-
 func TestContextConstants(t *testing.T) {
 	got := []int{impl.IdMax, impl.ContextMax, impl.AreaMax, impl.KindLayer, impl.KindCut, impl.KindFill, impl.KindWall}
 	if !slices.Equal(got, []int{99, 12, 4, 1, 2, 3, 4}) {
@@ -305,32 +301,19 @@ func TestContextsWithoutOneAndWithOneTwice(t *testing.T) {
 func TestContextsAddSharesNoMemory(t *testing.T) {
 	for _, list := range validContexts() {
 		for _, id := range []int{1, 3, 50, impl.IdMax} {
-			room := make([]impl.Context, len(list), 2*impl.ContextMax)
-			copy(room, list)
+			room := withRoom(list, impl.ContextMax)
 			first, _ := impl.ContextsAdd(room, layer(id))
 			second, _ := impl.ContextsAdd(room, layer(id))
 			want := slices.Clone(second)
-			overwrite(first)
+			overwrite(first, impl.Context{Id: -7, Kind: -7, Area: -7})
 			if !slices.Equal(room, list) || !slices.Equal(second, want) {
 				t.Fatalf("the result of ContextsAdd(%v, %d) shares memory", list, id)
 			}
-			if behind := room[len(room):cap(room)]; slices.ContainsFunc(behind, isSet) {
-				t.Fatalf("ContextsAdd(%v, %d) wrote behind the list: %v", list, id, behind)
+			if !isZero(behind(room)) {
+				t.Fatalf("ContextsAdd(%v, %d) wrote behind the list: %v", list, id, behind(room))
 			}
 		}
 	}
-}
-
-// overwrite writes to all memory that a result has, including its capacity.
-func overwrite(list []impl.Context) {
-	all := list[:cap(list)]
-	for i := range all {
-		all[i] = impl.Context{Id: -7, Kind: -7, Area: -7}
-	}
-}
-
-func isSet(c impl.Context) bool {
-	return c != impl.Context{}
 }
 
 func TestContextsReadingChangesNothing(t *testing.T) {
@@ -341,9 +324,7 @@ func TestContextsReadingChangesNothing(t *testing.T) {
 		ids := impl.ContextsArea(list, 1)
 		again := impl.ContextsArea(list, 1)
 		want := slices.Clone(again)
-		for i := range ids {
-			ids[i] = -7
-		}
+		overwrite(ids, -7)
 		if !slices.Equal(list, before) || !slices.Equal(again, want) {
 			t.Errorf("%v became %v, and its area %v", before, list, again)
 		}

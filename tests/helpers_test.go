@@ -1,0 +1,34 @@
+package tests
+
+import "slices"
+
+// without returns a list without the element at a place, in new memory.
+func without[T any](list []T, i int) []T {
+	return slices.Concat(list[:i], list[i+1:])
+}
+
+// overwrite writes a value to all memory that a list has, including its capacity.
+func overwrite[T any](list []T, value T) {
+	all := list[:cap(list)]
+	for i := range all {
+		all[i] = value
+	}
+}
+
+// withRoom returns a copy of a list in memory that has further room, all of it zero.
+func withRoom[T any](list []T, room int) []T {
+	longer := make([]T, len(list), len(list)+room)
+	copy(longer, list)
+	return longer
+}
+
+// behind returns what stands in the room behind a list.
+func behind[T any](list []T) []T {
+	return list[len(list):cap(list)]
+}
+
+// isZero reports whether each element is a zero value.
+func isZero[T comparable](list []T) bool {
+	var zero T
+	return !slices.ContainsFunc(list, func(x T) bool { return x != zero })
+}
