@@ -32,3 +32,17 @@ func isZero[T comparable](list []T) bool {
 	var zero T
 	return !slices.ContainsFunc(list, func(x T) bool { return x != zero })
 }
+
+// sameRows reports whether two tables have equal rows.
+func sameRows[T comparable](a, b [][]T) bool {
+	return slices.EqualFunc(a, b, slices.Equal[[]T])
+}
+
+// cloneRows returns a table in new memory.
+func cloneRows[T any](table [][]T) [][]T {
+	var other [][]T
+	for _, row := range table {
+		other = append(other, slices.Clone(row))
+	}
+	return other
+}

@@ -325,7 +325,7 @@ func TestMatrixOfIsTheSame(t *testing.T) {
 			t.Fatalf("MatrixOf(%v, %v) returned %v", c.ids, c.rels, list)
 		}
 		if other := (groupCase{c.ids, list}); !slices.Equal(expectedHeads(other), expectedHeads(c)) ||
-			!sameOrder(expectedOrder(other), expectedOrder(c)) {
+			!sameRows(expectedOrder(other), expectedOrder(c)) {
 			t.Fatalf("MatrixOf(%v, %v) returned %v, of another order", c.ids, c.rels, list)
 		}
 	}
@@ -408,7 +408,7 @@ func TestMatrixSame(t *testing.T) {
 		heads, order := expectedHeads(c), expectedOrder(c)
 		for _, other := range variantsOf(random, c) {
 			o := groupCase{c.ids, other}
-			want := slices.Equal(heads, expectedHeads(o)) && sameOrder(order, expectedOrder(o))
+			want := slices.Equal(heads, expectedHeads(o)) && sameRows(order, expectedOrder(o))
 			if got := impl.MatrixSame(c.ids, c.rels, other); got != want || impl.MatrixSame(c.ids, other, c.rels) != want {
 				t.Fatalf("MatrixSame(%v, %v, %v) is not %v", c.ids, c.rels, other, want)
 			}
@@ -451,7 +451,7 @@ func TestMatrixSameOfThree(t *testing.T) {
 	}
 	for i, a := range all {
 		for j, b := range all {
-			want := slices.Equal(heads[i], heads[j]) && sameOrder(orders[i], orders[j])
+			want := slices.Equal(heads[i], heads[j]) && sameRows(orders[i], orders[j])
 			if got := impl.MatrixSame(ids, a, b); got != want {
 				t.Fatalf("MatrixSame(%v, %v, %v) returned %v", ids, a, b, got)
 			}

@@ -185,20 +185,6 @@ func expectedCircle(c groupCase) []int {
 	return nil
 }
 
-// sameOrder reports whether two orders are equal.
-func sameOrder(a, b [][]bool) bool {
-	return slices.EqualFunc(a, b, slices.Equal[[]bool])
-}
-
-// cloneOrder returns an order in new memory.
-func cloneOrder(order [][]bool) [][]bool {
-	var other [][]bool
-	for _, row := range order {
-		other = append(other, slices.Clone(row))
-	}
-	return other
-}
-
 // orderOf returns what OrderOf returns for valid arguments, for which it must have a row and a column for each context.
 func orderOf(t *testing.T, c groupCase) [][]bool {
 	t.Helper()
@@ -335,7 +321,7 @@ func TestOrderCycleExamples(t *testing.T) {
 
 func TestOrderOf(t *testing.T) {
 	for _, c := range orderCases() {
-		if got, want := orderOf(t, c), expectedOrder(c); !sameOrder(got, want) {
+		if got, want := orderOf(t, c), expectedOrder(c); !sameRows(got, want) {
 			t.Fatalf("OrderOf(%v, %v) returned %v, not %v", c.ids, c.rels, got, want)
 		}
 	}
@@ -580,13 +566,13 @@ func TestOrderAtLimit(t *testing.T) {
 			t.Errorf("OrderCycle(%v, %v) returned %v", ids, circleOf(ids), got)
 		}
 		none := groupCase{ids, nil}
-		if order := orderOf(t, none); !sameOrder(order, expectedOrder(none)) || !impl.OrderValid(ids, nil) {
+		if order := orderOf(t, none); !sameRows(order, expectedOrder(none)) || !impl.OrderValid(ids, nil) {
 			t.Errorf("OrderOf(%v, nil) returned %v", ids, order)
 		}
 	}
 	ids := numbersOf(impl.ContextMax, 1, 1)
 	full := groupCase{ids, relsWithin(ids)[:impl.RelMax]}
-	if order := orderOf(t, full); !sameOrder(order, expectedOrder(full)) {
+	if order := orderOf(t, full); !sameRows(order, expectedOrder(full)) {
 		t.Errorf("OrderOf(%v, %v) returned %v", full.ids, full.rels, order)
 	}
 }
@@ -648,18 +634,18 @@ func TestOrderOfSharesNoMemory(t *testing.T) {
 	for _, c := range allOrderCases() {
 		room := groupCase{withRoom(c.ids, impl.ContextMax), withRoom(c.rels, impl.RelMax)}
 		first, second := impl.OrderOf(room.ids, room.rels), impl.OrderOf(room.ids, room.rels)
-		want := cloneOrder(first)
+		want := cloneRows(first)
 		for i, row := range first {
 			for _, value := range []bool{true, false} {
 				overwrite(row, value)
-				if !sameOrder(first[i+1:], want[i+1:]) || !sameOrder(second, want) {
+				if !sameRows(first[i+1:], want[i+1:]) || !sameRows(second, want) {
 					t.Fatalf("OrderOf(%v, %v): row %d shares memory", c.ids, c.rels, i)
 				}
 			}
 			copy(row, want[i])
 		}
 		overwrite(first, nil)
-		if !sameOrder(second, want) {
+		if !sameRows(second, want) {
 			t.Fatalf("OrderOf(%v, %v): two results share memory", c.ids, c.rels)
 		}
 		if !untouched(room, c) {
