@@ -46,3 +46,14 @@ func cloneRows[T any](table [][]T) [][]T {
 	}
 	return other
 }
+
+// listsUpTo returns all lists of up to n elements that are chosen from some, each of them any number of times.
+func listsUpTo[T any](elements []T, n int) [][]T {
+	lists := [][]T{nil}
+	for first := 0; len(lists[first]) < n; first++ {
+		for _, x := range elements {
+			lists = append(lists, append(slices.Clone(lists[first]), x))
+		}
+	}
+	return lists
+}

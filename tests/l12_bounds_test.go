@@ -338,13 +338,7 @@ func TestBoundsOf(t *testing.T) {
 // Promise 53: all lists of up to three bounds of the context or another one, whose limits are near each other.
 func TestBoundsOfShortLists(t *testing.T) {
 	bounds := append(boundsBetween(5, 0, 1, 998, 999), boundsBetween(8, 0, 999)...)
-	lists := [][]impl.Bound{nil}
-	for first := 0; len(lists[first]) < 3; first++ {
-		for _, b := range bounds {
-			lists = append(lists, append(slices.Clone(lists[first]), b))
-		}
-	}
-	for _, list := range lists {
+	for _, list := range listsUpTo(bounds, 3) {
 		low, high, ok := expectedYears(list, 5)
 		if !isBoundsOf(list, 5, low, high, ok) {
 			t.Fatalf("BoundsOf(%v, 5) is not %d, %d, %v", list, low, high, ok)

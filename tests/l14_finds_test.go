@@ -943,12 +943,7 @@ func TestFindsOldOfShortLists(t *testing.T) {
 	for _, id := range []int{8, 9, 10, 11} {
 		finds = append(finds, findsOf(id, 0, 1)...)
 	}
-	lists := [][]impl.Find{nil}
-	for first := 0; len(lists[first]) < 3; first++ {
-		for _, f := range finds {
-			lists = append(lists, append(slices.Clone(lists[first]), f))
-		}
-	}
+	lists := listsUpTo(finds, 3)
 	three := []int{8, 9, 10}
 	for _, rels := range subsets(relsWithin(three)) {
 		if !impl.OrderValid(three, rels) {
