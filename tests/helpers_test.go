@@ -1,6 +1,9 @@
 package tests
 
-import "slices"
+import (
+	"slices"
+	"testing"
+)
 
 // without returns a list without the element at a place, in new memory.
 func without[T any](list []T, i int) []T {
@@ -45,6 +48,29 @@ func cloneRows[T any](table [][]T) [][]T {
 		other = append(other, slices.Clone(row))
 	}
 	return other
+}
+
+// checkSeparateRows overwrites each row of a table with values, and checks that it shares no memory with the other rows,
+// nor with those of an equal table.
+func checkSeparateRows[T comparable](t *testing.T, table, equal [][]T, values ...T) {
+	t.Helper()
+	want := cloneRows(equal)
+	if !sameRows(table, equal) {
+		t.Fatalf("the rows are %v, and then %v", table, equal)
+	}
+	for i, row := range table {
+		for _, value := range values {
+			overwrite(row, value)
+			if !sameRows(table[i+1:], want[i+1:]) || !sameRows(table[:i], want[:i]) || !sameRows(equal, want) {
+				t.Fatalf("row %d of %v shares memory", i, want)
+			}
+		}
+		copy(row, want[i])
+	}
+	overwrite(table, nil)
+	if !sameRows(equal, want) {
+		t.Fatalf("two results with the rows %v share memory", want)
+	}
 }
 
 // listsUpTo returns all lists of up to n elements that are chosen from some, each of them any number of times.

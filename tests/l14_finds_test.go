@@ -1140,21 +1140,7 @@ func TestFindsTableSharesNoMemory(t *testing.T) {
 			room, more := withRoom(list, impl.FindMax), withRoom(ids, impl.ContextMax)
 			first, _ := impl.FindsTable(more, room)
 			second, _ := impl.FindsTable(more, room)
-			want := cloneRows(second)
-			if !sameRows(first, second) {
-				t.Fatalf("FindsTable(%v, %v) returned %v, and then %v", ids, list, first, second)
-			}
-			for i, row := range first {
-				overwrite(row, -7)
-				if !sameRows(first[i+1:], want[i+1:]) || !sameRows(first[:i], want[:i]) || !sameRows(second, want) {
-					t.Fatalf("FindsTable(%v, %v): row %d shares memory", ids, list, i)
-				}
-				copy(row, want[i])
-			}
-			overwrite(first, nil)
-			if !sameRows(second, want) {
-				t.Fatalf("FindsTable(%v, %v): two results share memory", ids, list)
-			}
+			checkSeparateRows(t, first, second, -7)
 			if !slices.Equal(room, list) || !slices.Equal(more, ids) || !isZero(behind(room)) || !isZero(behind(more)) {
 				t.Fatalf("FindsTable(%v, %v) shares memory with an argument", ids, list)
 			}

@@ -634,20 +634,7 @@ func TestOrderOfSharesNoMemory(t *testing.T) {
 	for _, c := range allOrderCases() {
 		room := groupCase{withRoom(c.ids, impl.ContextMax), withRoom(c.rels, impl.RelMax)}
 		first, second := impl.OrderOf(room.ids, room.rels), impl.OrderOf(room.ids, room.rels)
-		want := cloneRows(first)
-		for i, row := range first {
-			for _, value := range []bool{true, false} {
-				overwrite(row, value)
-				if !sameRows(first[i+1:], want[i+1:]) || !sameRows(second, want) {
-					t.Fatalf("OrderOf(%v, %v): row %d shares memory", c.ids, c.rels, i)
-				}
-			}
-			copy(row, want[i])
-		}
-		overwrite(first, nil)
-		if !sameRows(second, want) {
-			t.Fatalf("OrderOf(%v, %v): two results share memory", c.ids, c.rels)
-		}
+		checkSeparateRows(t, first, second, true, false)
 		if !untouched(room, c) {
 			t.Fatalf("OrderOf(%v, %v) shares memory with an argument", c.ids, c.rels)
 		}
