@@ -73,6 +73,34 @@ func checkSeparateRows[T comparable](t *testing.T, table, equal [][]T, values ..
 	}
 }
 
+// joinedRows returns rows that lie one behind the other in one memory, so that what is written behind a row changes the
+// next one, and all of this memory. It ends with some room, and so does the table.
+func joinedRows[T any](rows [][]T, room T) ([][]T, []T) {
+	memory := append(slices.Concat(rows...), slices.Repeat([]T{room}, 10)...)
+	joined := make([][]T, 0, len(rows)+5)
+	used := 0
+	for _, row := range rows {
+		joined = append(joined, memory[used:used+len(row)])
+		used += len(row)
+	}
+	return joined, memory
+}
+
+// unchangedRows calls a function with rows in joined memory, once for each value of the room behind them, and reports
+// whether these are as before, and nothing was written behind them.
+func unchangedRows[T comparable](rows [][]T, rooms []T, call func(rows [][]T)) bool {
+	for _, room := range rooms {
+		joined, memory := joinedRows(rows, room)
+		old := slices.Clone(memory)
+		call(joined)
+		written := slices.ContainsFunc(behind(joined), func(row []T) bool { return row != nil })
+		if !sameRows(joined, rows) || !slices.Equal(memory, old) || written {
+			return false
+		}
+	}
+	return true
+}
+
 // listsUpTo returns all lists of up to n elements that are chosen from some, each of them any number of times.
 func listsUpTo[T any](elements []T, n int) [][]T {
 	lists := [][]T{nil}

@@ -769,34 +769,6 @@ func TestRowsAlikeOfInvalidRows(t *testing.T) {
 	}
 }
 
-// joinedRows returns rows that lie one behind the other in one memory, so that what is written behind a row changes the
-// next one, and all of this memory. It ends with some room.
-func joinedRows(rows [][]bool, room bool) ([][]bool, []bool) {
-	memory := append(slices.Concat(rows...), slices.Repeat([]bool{room}, 10)...)
-	joined := make([][]bool, 0, len(rows)+impl.RowMax)
-	used := 0
-	for _, row := range rows {
-		joined = append(joined, memory[used:used+len(row)])
-		used += len(row)
-	}
-	return joined, memory
-}
-
-// unchangedRows calls a function with rows in joined memory, and reports whether these are as before, and nothing was
-// written behind them.
-func unchangedRows(rows [][]bool, call func(rows [][]bool)) bool {
-	for _, room := range []bool{true, false} {
-		joined, memory := joinedRows(rows, room)
-		old := slices.Clone(memory)
-		call(joined)
-		written := slices.ContainsFunc(behind(joined), func(row []bool) bool { return row != nil })
-		if !sameRows(joined, rows) || !slices.Equal(memory, old) || written {
-			return false
-		}
-	}
-	return true
-}
-
 // rowMemoryCases returns valid and invalid rows.
 func rowMemoryCases() [][][]bool {
 	return append(validRows(), invalidRows()...)
@@ -805,7 +777,7 @@ func rowMemoryCases() [][][]bool {
 // RowsValid, RowsSerial, RowsAlike and RowsOrder change no argument, and orders share no memory.
 func TestRowsOrderSharesNoMemory(t *testing.T) {
 	for _, rows := range rowMemoryCases() {
-		if !unchangedRows(rows, func(rows [][]bool) {
+		if !unchangedRows(rows, []bool{true, false}, func(rows [][]bool) {
 			impl.RowsValid(rows)
 			impl.RowsSerial(rows)
 			for i := range rows {
@@ -833,7 +805,7 @@ func TestRowsTakeSharesNoMemory(t *testing.T) {
 	for _, rows := range rowMemoryCases() {
 		order := random.Perm(len(rows))
 		memory := append(slices.Clone(order), -7, -7)
-		if !unchangedRows(rows, func(rows [][]bool) {
+		if !unchangedRows(rows, []bool{true, false}, func(rows [][]bool) {
 			first, _ := impl.RowsTake(rows, memory[:len(order)])
 			second, _ := impl.RowsTake(rows, memory[:len(order)])
 			checkSeparateRows(t, first, second, true, false)
